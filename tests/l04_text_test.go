@@ -228,22 +228,84 @@ func TestP4Limits(t *testing.T) {
 	}
 }
 
-// A heap may hold a text that is longer than one that may be put: it is found and read, and put no more.
-func TestP4LongerThanMost(t *testing.T) {
-	long := strings.Repeat("y", impl.MaxText+1)
-	words := []int{len(long)}
-	for _, b := range []byte(long) {
+func textBody(text string) []int {
+	words := []int{len(text)}
+	for _, b := range []byte(text) {
 		words = append(words, int(b))
 	}
-	s := heapOf(holding(impl.BkText, words...), holding(impl.BkFree, make([]int, 60)...))
-	if v, ok := impl.TextFind(s, long); !ok || v != ref(impl.VText, 0) {
-		t.Errorf("found: %d, %v", v, ok)
+	return words
+}
+
+// longTexts have more than MaxText bytes each, up to as many as a slab holds.
+func longTexts() []string {
+	var all []string
+	for _, n := range []int{impl.MaxText + 1, impl.MaxText + 2, 2 * impl.MaxText, 255, 256, impl.MaxWords - 2} {
+		all = append(all, strings.Repeat("y", n))
 	}
-	if got := impl.TextOf(s, ref(impl.VText, 0)); got != long {
-		t.Errorf("read: %q", got)
+	return append(all, strings.Repeat("€", 11), strings.Repeat("\xff", 31), strings.Repeat("é\x80\x00", 20))
+}
+
+// unlike are texts as long as this one or longer, and none of them is it.
+func unlike(long string) []string {
+	n := len(long)
+	return []string{long[:n-1] + "z", "z" + long[1:], long + "\x00", long + long[:1], long + long, strings.Repeat("q", n)}
+}
+
+// A heap may hold a text that is longer than one that may be put: it is told where it is put, with room and without it.
+func TestP4LongerThanMost(t *testing.T) {
+	for _, long := range longTexts() {
+		alone := holding(impl.BkText, textBody(long)...)
+		slabs := map[string]impl.Slab{"no room": heapOf(alone)}
+		if len(long) < 1000 {
+			slabs["room"] = heapOf(alone, holding(impl.BkFree, make([]int, len(long)+40)...))
+			slabs["two of them"] = heapOf(alone, alone, holding(impl.BkFree, 0, 0))
+		}
+		for name, s := range slabs {
+			s = withRoom(s)
+			before := wholeOf(s)
+			if v, ok := impl.TextFind(s, long); !ok || v != ref(impl.VText, 0) {
+				t.Errorf("%s, %d bytes: found: %d, %v", name, len(long), v, ok)
+			}
+			if got := impl.TextOf(s, ref(impl.VText, 0)); got != long {
+				t.Errorf("%s, %d bytes: read: %q", name, len(long), got)
+			}
+			got, v, ok := impl.TextPut(s, long)
+			if !ok || v != ref(impl.VText, 0) || !sameWords(got, s) {
+				t.Errorf("%s, %d bytes: put: %d, %v", name, len(long), v, ok)
+			}
+			spoilCopy(t, s, before, got)
+			for _, other := range unlike(long) {
+				if got, v, ok := impl.TextPut(s, other); ok || v != impl.VUndef || !sameWords(got, s) {
+					t.Errorf("%s, %d bytes: another one is put: %q, %d, %v", name, len(long), other, v, ok)
+				}
+			}
+		}
 	}
-	if got, v, ok := impl.TextPut(s, long); ok || v != impl.VUndef || !sameWords(got, s) {
-		t.Errorf("put: %d, %v", v, ok)
+}
+
+// Behind other blocks it is told at its own place; once it is given, it is put no more.
+func TestP4LongerThanMostGiven(t *testing.T) {
+	for _, long := range longTexts() {
+		if len(long) > 1000 {
+			continue
+		}
+		s := heapOf(
+			holding(impl.BkText, textBody(long[:impl.MaxText])...),
+			holding(impl.BkFree, textBody(long)...),
+			holding(impl.BkText, append(textBody(long), 0, 0)...),
+			holding(impl.BkText, textBody(long)...),
+		)
+		first, second := impl.MaxText+2+len(long)+2, impl.MaxText+2+2*len(long)+6
+		for _, want := range []int{first, second} {
+			got, v, ok := impl.TextPut(s, long)
+			if !ok || v != ref(impl.VText, want) || !sameWords(got, s) {
+				t.Errorf("%d bytes: %d, %v, and not at %d", len(long), v, ok, want)
+			}
+			s = impl.Give(s, want)
+		}
+		if got, v, ok := impl.TextPut(s, long); ok || v != impl.VUndef || !sameWords(got, s) {
+			t.Errorf("%d bytes that were given: %d, %v", len(long), v, ok)
+		}
 	}
 }
 
