@@ -88,6 +88,9 @@ func wantTaken(s impl.Slab, b body) (impl.Slab, int, bool) {
 
 func wantPropSet(s impl.Slab, obj, name, v int) (impl.Slab, bool) {
 	places, round := wantCells(s.Words, obj)
+	if round {
+		return s, false
+	}
 	link := wantNum(obj) + 2
 	for _, at := range places {
 		if s.Words[at+1] == name {
@@ -98,7 +101,7 @@ func wantPropSet(s impl.Slab, obj, name, v int) (impl.Slab, bool) {
 		link = at + 3
 	}
 	with, at, ok := wantTaken(s, holding(impl.BkCell, name, v, impl.VUndef))
-	if round || !ok {
+	if !ok {
 		return s, false
 	}
 	with.Words[link] = ref(impl.VInner, at)
@@ -539,7 +542,7 @@ func circleOf(n, back, room int) (s impl.Slab, obj int, names []int) {
 	return heapOf(bodies...), obj, names
 }
 
-// Cells that go in a circle, at once and behind several others: each is looked at, what is there is set, nothing is put behind all of them.
+// Cells that go in a circle, at once and behind several others: each is looked at, none is set, whatever name and with whatever room.
 func TestP5CellsInACircle(t *testing.T) {
 	for n := 1; n <= 6; n++ {
 		for back := range n {
@@ -555,11 +558,11 @@ func TestP5CellsInACircle(t *testing.T) {
 					if v, ok := impl.Look(s, obj, name); !ok || v != impl.IntOf(i) {
 						t.Errorf("%d cells back to %d: Look of number %d: %d, %v", n, back, i, v, ok)
 					}
-					got, ok := impl.PropSet(s, obj, name, impl.VNull)
-					if !ok || got.Words[impl.Num(obj)+3+4*i+2] != impl.VNull {
-						t.Errorf("%d cells back to %d: PropSet of number %d: %v, %v", n, back, i, got, ok)
+					for _, v := range []int{impl.VNull, impl.IntOf(i), obj} {
+						if got, ok := impl.PropSet(s, obj, name, v); ok || !sameWords(got, s) {
+							t.Errorf("%d cells back to %d: PropSet of number %d to %d: %v, %v", n, back, i, v, got, ok)
+						}
 					}
-					checkSeen(t, s, got, obj, name, impl.VNull)
 				}
 				if v, ok := impl.Own(s, obj, names[n]); ok || v != impl.VUndef {
 					t.Errorf("%d cells back to %d: Own of what is not there: %d", n, back, v)
@@ -574,6 +577,53 @@ func TestP5CellsInACircle(t *testing.T) {
 				checkSets(t, "a circle", s)
 			}
 		}
+	}
+}
+
+// The same cells, the last of which leads on to none: each is set, with room and without; only a name that is not there needs room.
+func TestP5CircleOpened(t *testing.T) {
+	for n := 1; n <= 6; n++ {
+		for back := range n {
+			for _, room := range []int{0, 2, 3, 4, 20} {
+				s, obj, names := circleOf(n, back, room)
+				s.Words[impl.Num(obj)+3+4*(n-1)+3] = impl.VUndef
+				for i, name := range names[:n] {
+					want := impl.Slab{Words: slices.Clone(s.Words)}
+					want.Words[impl.Num(obj)+3+4*i+2] = impl.VNull
+					got, ok := impl.PropSet(s, obj, name, impl.VNull)
+					if !ok || !sameWords(got, want) {
+						t.Errorf("%d cells, %d words of room: PropSet of number %d: %v, %v", n, room, i, got, ok)
+					}
+					checkSeen(t, s, got, obj, name, impl.VNull)
+				}
+				if got, ok := impl.PropSet(s, obj, names[n], impl.VNull); ok != (room >= 4) || sameWords(got, s) == ok {
+					t.Errorf("%d cells, %d words of room: PropSet of what is not there: %v, %v", n, room, got, ok)
+				}
+				checkSets(t, "no circle", s)
+			}
+		}
+	}
+}
+
+// A circle of another object is nobody else's: an object behind it by its prototype is set, and so is one that shares none of its cells; one that leads into it is not.
+func TestP5CircleBeside(t *testing.T) {
+	s, obj, names := circleOf(3, 1, 20)
+	cells := impl.Num(obj) + 3
+	s, low := mustObj(t, s, obj)
+	for _, name := range names {
+		set := mustSet(t, s, low, name, impl.VNull)
+		checkSeen(t, s, set, low, name, impl.VNull)
+	}
+	for i := range 3 {
+		into := impl.Slab{Words: slices.Clone(s.Words)}
+		into.Words[impl.Num(low)+2] = ref(impl.VInner, cells+4*i)
+		for _, name := range names {
+			if got, ok := impl.PropSet(into, low, name, impl.VNull); !impl.HeapOk(into) || ok || !sameWords(got, into) {
+				t.Errorf("an object that begins at number %d of a circle: PropSet of %d: %v, %v", i, name, got, ok)
+			}
+		}
+		checkObjects(t, "into a circle", into)
+		checkSets(t, "into a circle", into)
 	}
 }
 
@@ -629,6 +679,7 @@ func TestP5LongCircle(t *testing.T) {
 			t.Errorf("back to %d: %d names", back, len(got))
 		}
 		checkObjects(t, "many cells", s)
+		checkSets(t, "many cells", s)
 	}
 }
 
