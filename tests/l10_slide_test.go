@@ -660,6 +660,21 @@ func TestP10LeftOver(t *testing.T) {
 	}
 }
 
+// Each size that a free block may have beside a text, ahead of it and behind it.
+func TestP10EachSizeLeftOver(t *testing.T) {
+	text := holding(impl.BkText, 1, 'a')
+	for size := 2; size <= impl.MaxWords-3; size++ {
+		want := heapOf(text, room(size))
+		for at, s := range map[int]impl.Slab{size: heapOf(room(size), text), 0: want} {
+			for _, f := range []func(impl.Slab, []int) (impl.Slab, []int){impl.Slide, impl.Tidy} {
+				if got, to := f(s, []int{ref(impl.VText, at)}); !sameWords(got, want) || !slices.Equal(to, []int{ref(impl.VText, 0)}) {
+					t.Fatalf("%d words, the text at %d: %v, %v", size, at, got, to)
+				}
+			}
+		}
+	}
+}
+
 // The greatest slabs: of one block, of as many as there may be, with the last words moved to the first ones.
 func TestP10Most(t *testing.T) {
 	text := holding(impl.BkText, 0)
